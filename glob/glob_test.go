@@ -111,6 +111,8 @@ func TestParseTellsThePartsInOrder(t *testing.T) {
 		"[b-a]":        {of("ab")},
 		"[z-a9-0]x":    {of("az09"), just('x')},
 		"[a-a]":        {of("aa")},
+		"[Y-b]":        {of("Yb")},
+		"[y-B]":        {of("By")},
 		"[^e]":         {but("ee")},
 		"[^a-cx]y":     {but("acxx"), just('y')},
 		"[^^]":         {but("^^")},
@@ -245,6 +247,7 @@ func TestMatchOfExamples(t *testing.T) {
 		{"[\x00-\xff]", "\x80", true}, {"[^\x00-\xff]", "\x80", false}, {"[\x80-\xff]", "\x7f", false}, {"?", "\xff", true}, {"?", "é", false}, {"??", "é", true},
 		{"[é]", "é", false}, {"[é][é]", "é", true}, {"\xe9", "\xe9", true}, {"\xe9", "\xc9", false},
 		{"a", "A", false}, {"A", "a", false}, {"[a-z]", "B", false}, {"[^a]", "A", true},
+		{"[Y-b]", "Z", true}, {"[Y-b]", "_", true}, {"[Y-b]", "c", false}, {"[Y-b]", "y", false}, {"[9-_]", "A", true}, {"[9-_]", "a", false}, {"[A-~]", "_", true},
 		{"a\nb", "a\nb", true}, {"a?b", "a\nb", true}, {"\x00", "\x00", true}, {"\x00", "", false},
 	} {
 		if got := glob.Match(x.p, x.s, false); got != x.want {
@@ -262,15 +265,43 @@ func TestMatchWithFold(t *testing.T) {
 		{`\A`, "a", true}, {`\a`, "A", true}, {"az", "AZ", true}, {"AZ", "az", true},
 		{"[abc]", "B", true}, {"[ABC]", "b", true}, {"[ABC]", "d", false}, {`[\A]`, "a", true},
 		{"[^a]", "A", false}, {"[^A]", "a", false}, {"[^A]", "b", true}, {"[^a-c]", "B", false}, {"[^A-C]", "b", false}, {"[^A-C]", "D", true},
-		{"[a-c]", "B", true}, {"[A-C]", "b", true}, {"[C-A]", "b", true}, {"[A-C]", "d", false}, {"[A-c]", "D", true}, {"[a-C]", "D", true},
-		{"[Y-b]", "y", true}, {"[Y-b]", "Z", true}, {"[Y-b]", "B", true}, {"[Y-b]", "_", true}, {"[Y-b]", "c", false}, {"[Y-b]", "X", false}, {"[^Y-b]", "z", false}, {"[^Y-b]", "C", true},
-		{"[9-_]", "a", true}, {"[9-_]", "Z", true}, {"[9-_]", "@", true}, {"[9-_]", "`", false}, {"[`-~]", "A", true}, {"[`-~]", "@", false},
-		{"[@-B]", "b", true}, {"[@-B]", "@", true}, {"[@-B]", "`", false}, {"[y-{]", "Z", true}, {"[y-{]", "[", false},
+		{"[a-c]", "B", true}, {"[A-C]", "b", true}, {"[C-A]", "b", true}, {"[A-C]", "d", false}, {"[A-C]", "D", false},
 		{"@", "`", false}, {"`", "@", false}, {"[", "{", false}, {`\[`, "{", false}, {"{", "[", false}, {"\xc0", "\xe0", false}, {"[\xc0-\xdf]", "\xe0", false}, {"é", "É", false},
 		{"\xc1", "a", false}, {"1", "Q", false}, {"*", "Aa", true}, {"**z", "aZ", true}, {"", "", true}, {"", "A", false},
 	} {
 		if got := glob.Match(x.p, x.s, true); got != x.want {
 			t.Errorf("Match(%q, %q, true) = %t", x.p, x.s, got)
+		}
+	}
+}
+
+// With fold the two bytes of a range are taken as their small letters, and then the range goes from the lesser one to the greater one.
+func TestMatchWithFoldOfRanges(t *testing.T) {
+	for _, x := range []struct{ p, yes, no string }{
+		{"[A-C]", "ABCabc", "@`Dd-"}, {"[C-A]", "ABCabc", "@`Dd-"}, {"[A-c]", "ABCabc", "DdZ[_`@"}, {"[a-C]", "ABCabc", "DdZ[_`@"}, {"[C-a]", "ABCabc", "DdZ[_`@"},
+		{"[Y-b]", "BbCcMmXxYy", "AaZz[_`@{"}, {"[b-Y]", "BbCcMmXxYy", "AaZz[_`@{"}, {"[y-B]", "BbCcMmXxYy", "AaZz[_`@{"}, {"[Y-B]", "BbCcMmXxYy", "AaZz[_`@{"},
+		{"[Z-a]", "AaMmZz", "@[_`{"}, {"[A-A]", "Aa", "@`Bb"}, {"[A-a]", "Aa", "@[_`BbZz"}, {`[\Z-a]`, "Zz-Aa", "Mm[_`"},
+		{"[9-_]", "9:;@[\\]^_", "8`AaMmZz"}, {"[_-9]", "9:;@[\\]^_", "8`AaMmZz"}, {"[@-[]", "@[", "AaZz\\_`?"},
+		{"[9-Z]", "9:@AaMmZz[_`", "8{~"}, {"[Z-9]", "9:@AaMmZz[_`", "8{~"}, {"[9-z]", "9:@AaMmZz[_`", "8{~"},
+		{"[A-~]", "AaBbZz{~", "@[_`\x7f"}, {"[`-~]", "`AaBbZz{~", "@[_\x7f"}, {"[@-B]", "@[_`AaBb", "?Cc"}, {"[_-B]", "_`AaBb", "^Cc@"}, {"[y-{]", "YyZz{", "[Xx|"}, {"[Y-{]", "YyZz{", "[\\Xx|"},
+		{"[\x00-A]", "\x00@[_`Aa", "Bb{"}, {"[\xff-A]", "AaZz{\x80\xc1\xff", "@[_`"}, {"[\xc1-\xc3]", "\xc1\xc2\xc3", "\xe1\xe2Aa"},
+		{"[X-]]", "]_`AaXx", "[\\Yy"}, {"[YC-A_]", "YyAaBbCc_", "DdXxZz[`"},
+	} {
+		for _, not := range []bool{false, true} {
+			p := x.p
+			if not {
+				p = "[^" + p[1:]
+			}
+			for i := range len(x.yes) {
+				if got := glob.Match(p, x.yes[i:i+1], true); got == not {
+					t.Errorf("Match(%q, %q, true) = %t", p, x.yes[i:i+1], got)
+				}
+			}
+			for i := range len(x.no) {
+				if got := glob.Match(p, x.no[i:i+1], true); got != not {
+					t.Errorf("Match(%q, %q, true) = %t", p, x.no[i:i+1], got)
+				}
+			}
 		}
 	}
 }
@@ -295,7 +326,7 @@ func TestMatchOfEachByteInClasses(t *testing.T) {
 	for _, rest := range allOf(`]^-\aB`, 3) {
 		checkMatch(t, "["+rest, texts...)
 	}
-	ends := "\x00\x01\x3e\x3f\x40AMZ[]`amz{\x7f\x80\xbf\xc0\xe0\xfe\xff"
+	ends := "\x00\x019\x3e\x3f\x40ABMYZ[]_`abmyz{\x7f\x80\xbf\xc0\xe0\xfe\xff"
 	for i := range len(ends) {
 		for k := range len(ends) {
 			r := ends[i:i+1] + "-" + ends[k:k+1]

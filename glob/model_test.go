@@ -3,6 +3,7 @@ package glob_test
 import (
 	"math/rand/v2"
 	"regexp"
+	"slices"
 	"strings"
 
 	"millpond/api"
@@ -89,18 +90,20 @@ func modelOf(p string, fold bool) model {
 }
 
 func modelHas(g api.Glob, c byte, fold bool) bool {
-	switch g.Kind {
-	case api.GlobOne:
+	if g.Kind == api.GlobOne {
 		return true
-	case api.GlobByte:
-		return alike(g.C, c, fold)
 	}
-	found := false
-	for _, r := range g.Ranges {
-		for k := range 256 {
-			found = found || k >= int(r.From) && k <= int(r.To) && alike(byte(k), c, fold)
-		}
+	small := func(b byte) byte { return b }
+	if fold {
+		small = smallLetter
 	}
+	if g.Kind == api.GlobByte {
+		return small(g.C) == small(c)
+	}
+	found := slices.ContainsFunc(g.Ranges, func(r api.Span) bool {
+		l := []byte{small(r.From), small(c), small(r.To)}
+		return slices.IsSorted(l) || l[0] >= l[1] && l[1] >= l[2]
+	})
 	return found != g.Not
 }
 
@@ -109,12 +112,11 @@ const (
 	greatLetters = "ABCDEFGHIJKLMNOPQRSTUVWXYZ"
 )
 
-func alike(a, b byte, fold bool) bool {
-	if a == b || !fold {
-		return a == b
+func smallLetter(c byte) byte {
+	if i := strings.IndexByte(greatLetters, c); i >= 0 {
+		return smallLetters[i]
 	}
-	i, k := strings.IndexByte(smallLetters, a), strings.IndexByte(greatLetters, a)
-	return i >= 0 && greatLetters[i] == b || k >= 0 && smallLetters[k] == b
+	return c
 }
 
 // matches goes through the parts; it holds up to which places of the text those so far match.

@@ -5,7 +5,7 @@ import "millpond/api"
 // set is a set of bytes, a bit each.
 type set [4]uint64
 
-// setOf are the bytes that a part, which is no *, matches; with fold each is held as its small letter, and is to be asked for as such.
+// setOf are the bytes that a part, which is no *, matches; with fold a letter is to be asked for as its small one.
 func setOf(g api.Glob, fold bool) set {
 	var s set
 	switch g.Kind {
@@ -16,9 +16,7 @@ func setOf(g api.Glob, fold bool) set {
 		fallthrough
 	case api.GlobClass:
 		for _, r := range g.Ranges {
-			for c := int(r.From); c <= int(r.To); c++ { // as a byte it would go round behind 255
-				s.add(compared(byte(c), fold))
-			}
+			s.addRange(compared(r.From, fold), compared(r.To, fold))
 		}
 		if g.Not {
 			s.turn()
@@ -29,6 +27,13 @@ func setOf(g api.Glob, fold bool) set {
 
 // add puts a byte in.
 func (s *set) add(c byte) { s[c>>6] |= 1 << (c & 63) }
+
+// addRange puts in all bytes from the one to the other, whichever is lesser: small letters may stand the other way round than the great ones that were written.
+func (s *set) addRange(one, other byte) {
+	for c := int(min(one, other)); c <= int(max(one, other)); c++ { // as a byte it would go round behind 255
+		s.add(byte(c))
+	}
+}
 
 // has tells whether a byte is in it.
 func (s *set) has(c byte) bool { return s[c>>6]>>(c&63)&1 == 1 }
