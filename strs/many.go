@@ -21,7 +21,7 @@ func (p pairs) lasts() map[string]int {
 func setMany(w *work.Work, onlyNew bool) api.Reply {
 	p := pairs(w.Args[1:])
 	if len(p)%2 != 0 {
-		return work.Error("ERR wrong number of arguments for '" + w.Name + "' command")
+		return w.Arguments()
 	}
 	if onlyNew && anyThere(w, p) {
 		return work.Int(0)

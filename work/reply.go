@@ -11,8 +11,12 @@ const (
 	Wrong  = "WRONGTYPE Operation against a key holding the wrong kind of value"
 	Number = "ERR value is not an integer or out of range"
 	Syntax = "ERR syntax error"
+	Count  = "ERR value is out of range, must be positive"
+	NoKey  = "ERR no such key"
+	Index  = "ERR index out of range"
 	Over   = "ERR increment or decrement would overflow"
 	Long   = "ERR string exceeds maximum allowed size"
+	Large  = "ERR collection is too large"
 	Full   = "ERR store is full"
 )
 

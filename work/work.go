@@ -51,6 +51,16 @@ func (w *Work) Tell(words ...string) {
 	w.Told = append(w.Told, own)
 }
 
+// TellAsIs tells the call's own command.
+func (w *Work) TellAsIs() {
+	w.Tell(append([]string{strings.ToUpper(w.Name)}, w.Args[1:]...)...)
+}
+
+// Arguments is the error of arguments of which there may not be so many, though the command's arity lets them pass.
+func (w *Work) Arguments() api.Reply {
+	return Error("ERR wrong number of arguments for '" + w.Name + "' command")
+}
+
 // isMade tells whether a space is one that its package made. A value of no kind may not be put: asked so, no space changes.
 func isMade(s *space.Space) bool { return s.Put("", api.Value{}, api.Never) != api.ErrNil }
 

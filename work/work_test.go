@@ -94,6 +94,21 @@ func TestLookEndAndTell(t *testing.T) {
 	}
 }
 
+// The call's own command, its name in great letters, in memory of its own; and the error of its arguments.
+func TestTellAsIsAndArguments(t *testing.T) {
+	args := []string{"lReM", "Key", "-1", "v"}
+	w, _ := work.New(space.New(), api.Call{Role: api.RolePrimary, Args: args}, api.GList)
+	w.Tell("DEL", "Key")
+	w.TellAsIs()
+	args[0], args[3] = "changed", "changed"
+	if want := [][]string{{"DEL", "Key"}, {"LREM", "Key", "-1", "v"}}; !slices.EqualFunc(w.Told, want, slices.Equal) {
+		t.Errorf("told is %q; want %q", w.Told, want)
+	}
+	if r := w.Arguments(); r.Kind != api.RError || r.S != "ERR wrong number of arguments for 'lrem' command" {
+		t.Errorf("Arguments = %+v", r)
+	}
+}
+
 func TestReplies(t *testing.T) {
 	same := func(a, b api.Reply) bool {
 		return a.Kind == b.Kind && a.S == b.S && a.N == b.N && slices.EqualFunc(a.L, b.L, func(a, b api.Reply) bool { return a.Kind == b.Kind && a.S == b.S && a.N == b.N })
@@ -108,6 +123,10 @@ func TestReplies(t *testing.T) {
 		{work.Error(work.Wrong), api.Reply{Kind: api.RError, S: "WRONGTYPE Operation against a key holding the wrong kind of value"}},
 		{work.Error(work.Number), api.Reply{Kind: api.RError, S: "ERR value is not an integer or out of range"}},
 		{work.Error(work.Syntax), api.Reply{Kind: api.RError, S: "ERR syntax error"}},
+		{work.Error(work.Count), api.Reply{Kind: api.RError, S: "ERR value is out of range, must be positive"}},
+		{work.Error(work.NoKey), api.Reply{Kind: api.RError, S: "ERR no such key"}},
+		{work.Error(work.Index), api.Reply{Kind: api.RError, S: "ERR index out of range"}},
+		{work.Error(work.Large), api.Reply{Kind: api.RError, S: "ERR collection is too large"}},
 		{work.Error(work.Over), api.Reply{Kind: api.RError, S: "ERR increment or decrement would overflow"}},
 		{work.Error(work.Long), api.Reply{Kind: api.RError, S: "ERR string exceeds maximum allowed size"}},
 		{work.Error(work.Full), api.Reply{Kind: api.RError, S: "ERR store is full"}},
