@@ -29,7 +29,7 @@ func pop(w *work.Work, from side) api.Reply {
 		return w.Arguments()
 	}
 	if len(w.Args) == 3 {
-		return popSome(w, from, countOf(w.Args[2]))
+		return popSome(w, from, work.CountOf(w.Args[2]))
 	}
 	l := look(w, w.Args[1])
 	if !l.there {

@@ -17,7 +17,7 @@ func length(w *work.Work) api.Reply {
 
 // itemsOf does LRANGE.
 func itemsOf(w *work.Work) api.Reply {
-	first, last := numberOf(w.Args[2]), numberOf(w.Args[3])
+	first, last := work.NumberOf(w.Args[2]), work.NumberOf(w.Args[3])
 	l := look(w, w.Args[1])
 	from, to := number.Range(first, last, l.Len())
 	var items []api.Reply
@@ -29,7 +29,7 @@ func itemsOf(w *work.Work) api.Reply {
 
 // itemAt does LINDEX.
 func itemAt(w *work.Work) api.Reply {
-	n := numberOf(w.Args[2])
+	n := work.NumberOf(w.Args[2])
 	l := look(w, w.Args[1])
 	i, ok := number.Place(n, l.Len())
 	if !ok {
@@ -41,14 +41,14 @@ func itemAt(w *work.Work) api.Reply {
 
 // set does LSET.
 func set(w *work.Work) api.Reply {
-	n, item := numberOf(w.Args[2]), w.Args[3]
+	n, item := work.NumberOf(w.Args[2]), w.Args[3]
 	l := look(w, w.Args[1])
 	if !l.there {
-		fail(work.NoKey)
+		work.Fail(work.NoKey)
 	}
 	i, ok := number.Place(n, l.Len())
 	if !ok {
-		fail(work.Index)
+		work.Fail(work.Index)
 	}
 	if was, _ := l.At(i); was != item {
 		l.Set(i, item)
@@ -60,7 +60,7 @@ func set(w *work.Work) api.Reply {
 
 // remove does LREM.
 func remove(w *work.Work) api.Reply {
-	n, item := numberOf(w.Args[2]), w.Args[3]
+	n, item := work.NumberOf(w.Args[2]), w.Args[3]
 	l := look(w, w.Args[1])
 	had := l.Len()
 	l.Deque = without(l, item, n)
@@ -94,7 +94,7 @@ func without(l list, item string, n int64) *deque.Deque[string] {
 
 // trim does LTRIM.
 func trim(w *work.Work) api.Reply {
-	first, last := numberOf(w.Args[2]), numberOf(w.Args[3])
+	first, last := work.NumberOf(w.Args[2]), work.NumberOf(w.Args[3])
 	l := look(w, w.Args[1])
 	from, to := number.Range(first, last, l.Len())
 	if to-from < l.Len() {

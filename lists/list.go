@@ -4,7 +4,6 @@ import (
 	"millpond/api"
 	"millpond/command"
 	"millpond/deque"
-	"millpond/number"
 	"millpond/work"
 )
 
@@ -19,7 +18,7 @@ type list struct {
 func look(w *work.Work, key string) list {
 	v, there := w.Look(key)
 	if there && v.Kind != api.KList {
-		fail(work.Wrong)
+		work.Fail(work.Wrong)
 	}
 	return list{deque.Of(v.L...), key, there}
 }
@@ -33,14 +32,14 @@ func (l list) lay(w *work.Work) {
 	}
 	v := api.Value{Kind: api.KList, L: l.List()}
 	if w.Space.Put(l.key, v, w.End(l.key, l.there)) != api.OK {
-		fail(work.Full)
+		work.Fail(work.Full)
 	}
 }
 
 // mustFit ends the command, if a list has too many items.
 func (l list) mustFit() {
 	if l.Len() > api.MaxLen {
-		fail(work.Large)
+		work.Fail(work.Large)
 	}
 }
 
@@ -84,21 +83,3 @@ func (s side) pop(l list) string {
 
 // name is the name of a command that is done at a side: its letter, and what is done.
 func (s side) name(does string) string { return string(s[:1]) + does }
-
-// numberOf is the number of an argument.
-func numberOf(text string) int64 {
-	n, e := number.Parse(text)
-	if e != api.OK {
-		fail(work.Number)
-	}
-	return n
-}
-
-// countOf is the count of an argument.
-func countOf(text string) int64 {
-	n, e := number.Parse(text)
-	if e != api.OK || n < 0 {
-		fail(work.Count)
-	}
-	return n
-}
