@@ -23,8 +23,11 @@ const (
 // Error is a reply that tells an error.
 func Error(text string) api.Reply { return api.Reply{Kind: api.RError, S: strings.Clone(text)} }
 
+// Simple is a word's reply.
+func Simple(word string) api.Reply { return api.Reply{Kind: api.RSimple, S: strings.Clone(word)} }
+
 // OK is the reply that all is well.
-func OK() api.Reply { return api.Reply{Kind: api.RSimple, S: strings.Clone("OK")} }
+func OK() api.Reply { return Simple("OK") }
 
 // Int is a number's reply.
 func Int(n int64) api.Reply { return api.Reply{Kind: api.RInt, N: n} }

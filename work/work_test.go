@@ -115,6 +115,7 @@ func TestReplies(t *testing.T) {
 	}
 	for _, x := range []struct{ got, want api.Reply }{
 		{work.OK(), api.Reply{Kind: api.RSimple, S: "OK"}},
+		{work.Simple("none"), api.Reply{Kind: api.RSimple, S: "none"}},
 		{work.Int(-5), api.Reply{Kind: api.RInt, N: -5}},
 		{work.Bulk("a", true), api.Reply{Kind: api.RBulk, S: "a"}},
 		{work.Bulk("", true), api.Reply{Kind: api.RBulk}},
