@@ -20,7 +20,7 @@ type Work struct {
 // New begins the work of a call; false: the call is none of a group's.
 func New(s *space.Space, c api.Call, g api.Group) (*Work, bool) {
 	spec, _, known := command.Check(c.Args...)
-	if !known || spec.Group != g || !isMade(s) || !fits(c) {
+	if !known || spec.Group != g || !IsMade(s) || !Fits(c) {
 		return nil, false
 	}
 	return &Work{Call: c, Name: spec.Name, Space: s}, true
@@ -61,11 +61,11 @@ func (w *Work) Arguments() api.Reply {
 	return Error("ERR wrong number of arguments for '" + w.Name + "' command")
 }
 
-// isMade tells whether a space is one that its package made. A value of no kind may not be put: asked so, no space changes.
-func isMade(s *space.Space) bool { return s.Put("", api.Value{}, api.Never) != api.ErrNil }
+// IsMade tells whether a space is one that its package made. A value of no kind may not be put: asked so, no space changes.
+func IsMade(s *space.Space) bool { return s.Put("", api.Value{}, api.Never) != api.ErrNil }
 
-// fits tells whether a call keeps to the limits of arguments and of times.
-func fits(c api.Call) bool {
+// Fits tells whether a call keeps to the limits of arguments and of times.
+func Fits(c api.Call) bool {
 	for _, a := range c.Args {
 		if len(a) > api.MaxBulk {
 			return false

@@ -60,6 +60,28 @@ func TestNew(t *testing.T) {
 	}
 }
 
+// What a package asks that does not begin a group's work itself.
+func TestIsMadeAndFits(t *testing.T) {
+	s := space.New()
+	put(t, s, "k", "v", 3)
+	if !work.IsMade(s) || work.IsMade(nil) || work.IsMade(new(space.Space)) || s.Len() != 1 {
+		t.Errorf("IsMade = %t, %t, %t; then the space has %d entries", work.IsMade(s), work.IsMade(nil), work.IsMade(new(space.Space)), s.Len())
+	}
+	long := strings.Repeat("x", api.MaxBulk)
+	for _, x := range []struct {
+		now  int
+		args []string
+		fits bool
+	}{
+		{0, nil, true}, {5, []string{"any", long}, true}, {api.MaxTime, slices.Repeat([]string{""}, api.MaxArgs), true},
+		{-1, nil, false}, {api.MaxTime + 1, nil, false}, {5, []string{long + "x"}, false}, {5, []string{"any", long + "x"}, false}, {5, slices.Repeat([]string{""}, api.MaxArgs+1), false},
+	} {
+		if fits := work.Fits(api.Call{Now: x.now, Args: x.args}); fits != x.fits {
+			t.Errorf("Fits of %d arguments at %d = %t", len(x.args), x.now, fits)
+		}
+	}
+}
+
 func TestLookEndAndTell(t *testing.T) {
 	for _, x := range []struct {
 		role  api.Role
